@@ -58,7 +58,7 @@ func laid(list ...piece) ([]int, []int) {
 
 // standsBy tells by the chapter what block stands there.
 func standsBy(w []int, at int) (int, bool, bool) {
-	if at < 0 || at >= len(w) || len(w)-at < 4 || w[at+1] < 1 || w[at+1] > len(w)-at-3 {
+	if at < 0 || at > 4000 || len(w)-at < 4 || w[at+1] < 1 || w[at+1] > 4000 || w[at+1] > len(w)-at-3 {
 		return 0, false, false
 	}
 	n := w[at+1]
@@ -79,6 +79,9 @@ func standsBy(w []int, at int) (int, bool, bool) {
 	return 0, false, false
 }
 
+// shown are the words that a failing test tells: few enough to be read.
+func shown(w []int) []int { return w[:min(len(w), 100)] }
+
 // checkArena holds all that is told of an arena against the chapter.
 func checkArena(t *testing.T, w []int) {
 	t.Helper()
@@ -88,7 +91,7 @@ func checkArena(t *testing.T, w []int) {
 		n, used, ok := impl.BlockAt(a, at)
 		wantN, wantUsed, wantOk := standsBy(w, at)
 		if n != wantN || used != wantUsed || ok != wantOk {
-			t.Fatal("block at", at, "of", w, "is", n, used, ok)
+			t.Fatal("block at", at, "of", shown(w), "is", n, used, ok)
 		}
 	}
 	var places []int
@@ -106,13 +109,13 @@ func checkArena(t *testing.T, w []int) {
 		at += n + 3
 	}
 	if got := impl.Blocks(a); !slices.Equal(got, places) {
-		t.Fatal("blocks of", w, "are", got, "not", places)
+		t.Fatal("blocks of", shown(w), "are", got, "not", places)
 	}
 	if got := impl.Audit(a); got != audit {
-		t.Fatal("audit of", w, "is", got, "not", audit)
+		t.Fatal("audit of", shown(w), "is", got, "not", audit)
 	}
 	if !slices.Equal(w, ahead) {
-		t.Fatal("the arena was written to", w)
+		t.Fatal("the arena was written to", shown(w))
 	}
 }
 
@@ -434,4 +437,48 @@ func TestArenasOfTooFewWordsOrTooMany(t *testing.T) {
 	w, _ = laid(usedOf(3997), usedOf(1), usedOf(2))
 	checkArena(t, w)
 	checkArena(t, make([]int, 4100))
+}
+
+func TestNoBlockWhereNoGuardsAre(t *testing.T) {
+	for _, used := range []bool{false, true} {
+		w, _ := laid(piece{n: 4000, used: used})
+		isBlock(t, w, 0, 4000, used)
+		isAudit(t, w, -1, 0)
+		checkArena(t, w)
+		w, _ = laid(usedOf(3997), piece{n: 1, used: used})
+		isBlock(t, w, 4000, 1, used)
+		isAudit(t, w, -1, 0, 4000)
+		checkArena(t, w)
+		w, _ = laid(usedOf(3997), piece{n: 4000, used: used})
+		isBlock(t, w, 4000, 4000, used)
+		isAudit(t, w, -1, 0, 4000)
+		for _, n := range []int{4001, 4002, 5000} {
+			w, _ = laid(piece{n: n, used: used})
+			isNoBlock(t, w, 0)
+			isAudit(t, w, 0)
+			checkArena(t, w)
+			w, _ = laid(usedOf(1), piece{n: n, used: used})
+			isAudit(t, w, 4, 0)
+			w, _ = laid(usedOf(n-3), piece{n: 1, used: used})
+			isNoBlock(t, w, n)
+			checkArena(t, w)
+		}
+		w, _ = laid(usedOf(3998), piece{n: 1, used: used})
+		isAudit(t, w, 4001, 0)
+		checkArena(t, w)
+		w, _ = laid(usedOf(3997), usedOf(1), piece{n: 1, used: used})
+		isAudit(t, w, 4004, 0, 4000)
+		checkArena(t, w)
+	}
+}
+
+// A free block may reach behind the last place that a poison is reckoned of; the 0 there is looked at, too.
+func TestPoisonBehindTheLastPlace(t *testing.T) {
+	w, _ := laid(usedOf(97), freeOf(4000))
+	isAudit(t, w, -1, 0, 100)
+	for _, at := range []int{4000, 4001, 4101} {
+		w[at]++
+		isAudit(t, w, 100, 0)
+		w[at]--
+	}
 }
