@@ -3,6 +3,7 @@ package impl
 import (
 	"cmp"
 	"math"
+	"slices"
 	"strconv"
 	"strings"
 )
@@ -31,6 +32,10 @@ const (
 // endlessNeed is what a term needs that comes round to itself, or that needs
 // more words than can be counted. Two of them together still fit an int.
 const endlessNeed = math.MaxInt / 2
+
+// maxApart is how many terms a copy may have before a list that is met again is
+// no longer copied again: far more than an actor that is right has.
+const maxApart = 10000
 
 const hexDigits = "0123456789abcdef"
 
@@ -423,3 +428,45 @@ func needAlone(f form) int {
 	}
 	return 0
 }
+
+// copying is a copy of terms that is being made: the lists in it whose terms
+// still have within them what was copied, where each list went, and how many
+// terms there are so far.
+type copying struct {
+	open [][]Term
+	went map[listName][]Term
+	n    int
+}
+
+// ownTerms is l in memory of its own, no two lists of which are one, even where
+// two of l are. As in termOrder, a term may be of any depth or come round to
+// itself: past maxApart the copy has lists that are one where l has them, too.
+func ownTerms(l []Term) []Term {
+	c := copying{went: map[listName][]Term{}}
+	own := c.listOf(l)
+	for len(c.open) > 0 {
+		last := c.open[len(c.open)-1]
+		c.open = c.open[:len(c.open)-1]
+		for i, t := range last {
+			last[i].S, last[i].L = strings.Clone(t.S), c.listOf(t.L)
+		}
+	}
+	return own
+}
+
+func (c *copying) listOf(l []Term) []Term {
+	if len(l) == 0 {
+		return nil
+	}
+	name := nameOf(l)
+	if own, known := c.went[name]; known && c.n > maxApart {
+		return own
+	}
+	own := slices.Clone(l)
+	c.went[name] = own
+	c.open = append(c.open, own)
+	c.n += len(l)
+	return own
+}
+
+func ownTerm(t Term) Term { return ownTerms([]Term{t})[0] }
