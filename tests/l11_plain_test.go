@@ -1382,10 +1382,15 @@ func livelyCode(d *dice) []impl.Ins {
 	if d.below(6) == 0 {
 		return anyCode(d, 1+d.below(20))
 	}
+	return codeOfLines(d, livelyLines)
+}
+
+// codeOfLines is drawn from these lines, with a place for each %d, and some ends between them.
+func codeOfLines(d *dice, from []string) []impl.Ins {
 	n := 2 + d.below(14)
 	lines := []string{}
 	for range n - 1 {
-		line := livelyLines[d.below(len(livelyLines))]
+		line := from[d.below(len(from))]
 		if d.below(15) == 0 {
 			line = fmt.Sprint("end ", 4+d.below(4))
 		}
