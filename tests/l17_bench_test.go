@@ -499,7 +499,7 @@ func TestWordsOfLines(t *testing.T) {
 			isAnswered(t, []string{line}, "what")
 		}
 	}
-	for _, line := range []string{"fly", "ru", "runs 0 1", "run0 1", "out out", "ok", "no", "what", "none", "empty", "too long", "+1:ok", "1", "0", "-", ".", "#", "//", "say 0", "take 0", "jump 0", "free words", "safe!", "noroom", "sweep", "\xff\xfe\xfd", "\x00\x00", "é", "ｒun 0 1", strings.Repeat("out ", 900), strings.Repeat(" ", 3000), strings.Repeat("run ", 700)} {
+	for _, line := range []string{"fly", "ru", "runs 0 1", "run0 1", "out out", "ok", "no", "what", "none", "empty", "too long", "+1:ok", "1", "0", "-", ".", "#", "//", "say 0", "take 0", "jump 0", "free words", "safe!", "noroom", "sweep", "\xff\xfe\xfd", "\x00\x00", "é", "ｒun 0 1", strings.Repeat("out ", 900), strings.Repeat(" ", 3000), strings.Repeat("run ", 700), "tell 1 {a, b}", "end 1 [a, b]", "tell 1 a b", "end 1 { }", "tell 1 {a,b} c", "run 0, 1", "live 1 2"} {
 		isAnswered(t, []string{line}, "what")
 		isLast(t, echoing, []string{line, "out"}, "what", "+1:ok")
 	}
